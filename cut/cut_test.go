@@ -11,96 +11,10 @@ import (
 	"tollbar/api"
 	"tollbar/cut"
 	"tollbar/graph"
+	"tollbar/samples"
 )
 
 const most = api.MaxRate
-
-// of makes a graph of links that are told as From, To, Cap.
-func of(verts int, links ...[3]int) api.Graph {
-	g := api.Graph{Verts: verts}
-	for _, l := range links {
-		g.Links = append(g.Links, api.Link{From: l[0], To: l[1], Cap: l[2]})
-	}
-	return g
-}
-
-// town: links 0 and 3 lie side by side, 6 goes back beside them; 7 takes nothing.
-func town() api.Graph {
-	return of(4, [3]int{0, 1, 5}, [3]int{1, 3, 6}, [3]int{3, 0, 7}, [3]int{0, 1, 2}, [3]int{1, 2, 1}, [3]int{2, 3, 4}, [3]int{1, 0, 3}, [3]int{0, 3, 0})
-}
-
-// full: as many vertices and links as may be, MaxRate together; link i goes from its vertex to the next one, or the one behind that.
-func full() api.Graph {
-	g := api.Graph{Verts: api.MaxVerts}
-	for i := range api.MaxLinks {
-		v := i % api.MaxVerts
-		g.Links = append(g.Links, api.Link{From: v, To: (v + 1 + i/api.MaxVerts) % api.MaxVerts, Cap: most / api.MaxLinks})
-	}
-	return g
-}
-
-// capsOf gives the Caps of the graph.
-func capsOf(g api.Graph) []int {
-	var caps []int
-	for _, l := range g.Links {
-		caps = append(caps, l.Cap)
-	}
-	return caps
-}
-
-// bad is a graph that may not be, and why.
-type bad struct {
-	name string
-	g    api.Graph
-}
-
-// badGraphs: town with one thing turned, for each of layer 4's reasons, and graphs that are little else.
-func badGraphs() []bad {
-	bads := []bad{
-		{"nothing", api.Graph{}},
-		{"an empty list", api.Graph{Links: []api.Link{}}},
-		{"one vertex", of(1)},
-		{"one above MaxVerts", of(api.MaxVerts + 1)},
-		{"only a link from 0 to 0", of(2, [3]int{0, 0, 1})},
-		{"MaxRate four times, 0 in an int", of(2, [3]int{0, 1, most}, [3]int{0, 1, most}, [3]int{0, 1, most}, [3]int{0, 1, most})},
-	}
-	turn := func(name string, how func(g *api.Graph)) {
-		g := town()
-		how(&g)
-		bads = append(bads, bad{name, g})
-	}
-	for _, verts := range []int{math.MinInt, -1, 0, 1, api.MaxVerts + 1, math.MaxInt} {
-		turn("Verts", func(g *api.Graph) { g.Verts = verts })
-	}
-	for _, n := range []int{api.MaxLinks + 1, 2 * api.MaxLinks} {
-		turn("too many links", func(g *api.Graph) { g.Links = slices.Repeat(g.Links, 4)[:n] })
-	}
-	for _, at := range []int{0, 4, 7} {
-		for _, v := range []int{math.MinInt, -1, 4, math.MaxInt} {
-			turn("From is no vertex", func(g *api.Graph) { g.Links[at].From = v })
-			turn("To is no vertex", func(g *api.Graph) { g.Links[at].To = v })
-		}
-		turn("From and To alike", func(g *api.Graph) { g.Links[at].To = g.Links[at].From })
-		for _, c := range []int{math.MinInt, -1, most + 1, math.MaxInt} {
-			turn("Cap is no rate", func(g *api.Graph) { g.Links[at].Cap = c })
-		}
-		turn("above MaxRate together", func(g *api.Graph) { g.Links[at].Cap = most })
-	}
-	return bads
-}
-
-func TestBadGraphsMayNotBe(t *testing.T) {
-	for _, b := range badGraphs() {
-		if graph.May(b.g) {
-			t.Errorf("%s: %v may be", b.name, b.g)
-		}
-	}
-	for _, g := range []api.Graph{town(), full()} {
-		if !graph.May(g) {
-			t.Errorf("%v may not be", g)
-		}
-	}
-}
 
 // noVertices: lists that are not vertices of town, rising.
 func noVertices() [][]int {
@@ -111,23 +25,6 @@ func noVertices() [][]int {
 		{1, 0}, {2, 0}, {0, 2, 1}, {1, 0, 2}, {2, 1, 0}, {1, 2, 0}, {3, 2, 1, 0},
 		make([]int, 5), make([]int, 100000),
 	}
-}
-
-// noCaps: what are no caps of the graph.
-func noCaps(g api.Graph) [][]int {
-	all := [][]int{append(capsOf(g), 0), append(capsOf(g), -1), make([]int, len(g.Links)+1), make([]int, 100000)}
-	if len(g.Links) == 0 {
-		return all
-	}
-	all = append(all, nil, []int{}, capsOf(g)[1:], make([]int, len(g.Links)-1))
-	for i, l := range g.Links {
-		for _, no := range []int{math.MinInt, -most, -1, l.Cap + 1, most + 1, math.MaxInt} {
-			caps := capsOf(g)
-			caps[i] = no
-			all = append(all, caps)
-		}
-	}
-	return all
 }
 
 // P8.1: May.
@@ -179,14 +76,14 @@ func TestMay(t *testing.T) {
 		{-1, -1, []int{0}, false},
 		{-1, -1, []int{-1}, false},
 	} {
-		if got := cut.May(town(), x.src, x.dst, x.vs); got != x.want {
+		if got := cut.May(samples.Town(), x.src, x.dst, x.vs); got != x.want {
 			t.Errorf("May(%d, %d, %v): %t", x.src, x.dst, x.vs, got)
 		}
 	}
-	if !cut.May(of(2), 0, 1, []int{0}) || !cut.May(of(2), 1, 0, []int{1}) || cut.May(of(2), 0, 1, []int{1}) {
+	if !cut.May(samples.Graph(2), 0, 1, []int{0}) || !cut.May(samples.Graph(2), 1, 0, []int{1}) || cut.May(samples.Graph(2), 0, 1, []int{1}) {
 		t.Error("May of a graph without links")
 	}
-	if !cut.May(full(), 0, 7, []int{0, 1, 2, 3, 4, 5, 6}) || !cut.May(full(), 7, 0, []int{1, 2, 3, 4, 5, 6, 7}) || cut.May(full(), 0, 7, []int{0, 1, 2, 3, 4, 5, 6, 7}) {
+	if !cut.May(samples.Full(), 0, 7, []int{0, 1, 2, 3, 4, 5, 6}) || !cut.May(samples.Full(), 7, 0, []int{1, 2, 3, 4, 5, 6, 7}) || cut.May(samples.Full(), 0, 7, []int{0, 1, 2, 3, 4, 5, 6, 7}) {
 		t.Error("May of as many vertices as may be")
 	}
 }
@@ -195,7 +92,7 @@ func TestMayOfNoVertices(t *testing.T) {
 	for _, vs := range noVertices() {
 		for src := -1; src <= 4; src++ {
 			for dst := -1; dst <= 4; dst++ {
-				if cut.May(town(), src, dst, vs) {
+				if cut.May(samples.Town(), src, dst, vs) {
 					t.Errorf("May(%d, %d, %v)", src, dst, vs)
 				}
 			}
@@ -204,10 +101,10 @@ func TestMayOfNoVertices(t *testing.T) {
 }
 
 func TestMayOfBadGraphs(t *testing.T) {
-	for _, b := range badGraphs() {
+	for _, b := range samples.BadGraphs() {
 		for _, vs := range append(noVertices(), nil, []int{0}, []int{0, 1, 2}, []int{3}) {
-			if cut.May(b.g, 0, 1, vs) || cut.May(b.g, 0, 3, vs) || cut.May(b.g, 3, 0, vs) || cut.May(b.g, -1, 9, vs) {
-				t.Errorf("%s: May(%v, %v)", b.name, b.g, vs)
+			if cut.May(b.Graph, 0, 1, vs) || cut.May(b.Graph, 0, 3, vs) || cut.May(b.Graph, 3, 0, vs) || cut.May(b.Graph, -1, 9, vs) {
+				t.Errorf("%s: May(%v, %v)", b.Name, b.Graph, vs)
 			}
 		}
 	}
@@ -226,40 +123,40 @@ type side struct {
 // sides: all of town's, and those of other graphs.
 func sides() []side {
 	return []side{
-		{town(), nil, nil, 0},
-		{town(), []int{}, nil, 0},
-		{town(), []int{0}, []int{0, 3, 7}, 7},
-		{town(), []int{1}, []int{1, 4, 6}, 10},
-		{town(), []int{2}, []int{5}, 4},
-		{town(), []int{3}, []int{2}, 7},
-		{town(), []int{0, 1}, []int{1, 4, 7}, 7},
-		{town(), []int{0, 2}, []int{0, 3, 5, 7}, 11},
-		{town(), []int{0, 3}, []int{0, 3}, 7},
-		{town(), []int{1, 2}, []int{1, 5, 6}, 13},
-		{town(), []int{1, 3}, []int{2, 4, 6}, 11},
-		{town(), []int{2, 3}, []int{2}, 7},
-		{town(), []int{0, 1, 2}, []int{1, 5, 7}, 10},
-		{town(), []int{0, 1, 3}, []int{4}, 1},
-		{town(), []int{0, 2, 3}, []int{0, 3}, 7},
-		{town(), []int{1, 2, 3}, []int{2, 6}, 10},
-		{town(), []int{0, 1, 2, 3}, nil, 0},
-		{of(2), nil, nil, 0},
-		{of(2), []int{0}, nil, 0},
-		{of(2), []int{0, 1}, nil, 0},
+		{samples.Town(), nil, nil, 0},
+		{samples.Town(), []int{}, nil, 0},
+		{samples.Town(), []int{0}, []int{0, 3, 7}, 7},
+		{samples.Town(), []int{1}, []int{1, 4, 6}, 10},
+		{samples.Town(), []int{2}, []int{5}, 4},
+		{samples.Town(), []int{3}, []int{2}, 7},
+		{samples.Town(), []int{0, 1}, []int{1, 4, 7}, 7},
+		{samples.Town(), []int{0, 2}, []int{0, 3, 5, 7}, 11},
+		{samples.Town(), []int{0, 3}, []int{0, 3}, 7},
+		{samples.Town(), []int{1, 2}, []int{1, 5, 6}, 13},
+		{samples.Town(), []int{1, 3}, []int{2, 4, 6}, 11},
+		{samples.Town(), []int{2, 3}, []int{2}, 7},
+		{samples.Town(), []int{0, 1, 2}, []int{1, 5, 7}, 10},
+		{samples.Town(), []int{0, 1, 3}, []int{4}, 1},
+		{samples.Town(), []int{0, 2, 3}, []int{0, 3}, 7},
+		{samples.Town(), []int{1, 2, 3}, []int{2, 6}, 10},
+		{samples.Town(), []int{0, 1, 2, 3}, nil, 0},
+		{samples.Graph(2), nil, nil, 0},
+		{samples.Graph(2), []int{0}, nil, 0},
+		{samples.Graph(2), []int{0, 1}, nil, 0},
 		{api.Graph{Verts: api.MaxVerts, Links: []api.Link{}}, []int{0, 7}, nil, 0},
-		{of(2, [3]int{0, 1, 0}), []int{0}, []int{0}, 0},
-		{of(2, [3]int{0, 1, 5}), []int{1}, nil, 0},
-		{of(2, [3]int{0, 1, 5}, [3]int{0, 1, 5}, [3]int{1, 0, 9}, [3]int{0, 1, 1}), []int{0}, []int{0, 1, 3}, 11},
-		{of(2, [3]int{0, 1, 5}, [3]int{0, 1, 5}, [3]int{1, 0, 9}, [3]int{0, 1, 1}), []int{1}, []int{2}, 9},
-		{of(4, [3]int{2, 3, 5}, [3]int{3, 2, 5}), []int{0, 1}, nil, 0},
-		{of(4, [3]int{2, 3, 5}, [3]int{3, 2, 5}), []int{2, 3}, nil, 0},
-		{of(2, [3]int{0, 1, most}), []int{0}, []int{0}, most},
-		{of(2, [3]int{0, 1, most - 1}, [3]int{0, 1, 1}), []int{0}, []int{0, 1}, most},
-		{of(3, [3]int{0, 1, most / 2}, [3]int{0, 2, most / 2}), []int{0}, []int{0, 1}, most},
-		{full(), []int{0, 2, 4, 6}, []int{0, 2, 4, 6}, most / 4},
-		{full(), []int{0, 1, 2, 3, 4, 5, 6}, []int{6, 13}, most / 8},
-		{full(), []int{7}, []int{7, 15}, most / 8},
-		{of(2, slices.Repeat([][3]int{{1, 0, most / api.MaxLinks}}, api.MaxLinks)...), []int{1}, []int{0, 1, 2, 3, 4, 5, 6, 7, 8, 9, 10, 11, 12, 13, 14, 15}, most},
+		{samples.Graph(2, [3]int{0, 1, 0}), []int{0}, []int{0}, 0},
+		{samples.Graph(2, [3]int{0, 1, 5}), []int{1}, nil, 0},
+		{samples.Graph(2, [3]int{0, 1, 5}, [3]int{0, 1, 5}, [3]int{1, 0, 9}, [3]int{0, 1, 1}), []int{0}, []int{0, 1, 3}, 11},
+		{samples.Graph(2, [3]int{0, 1, 5}, [3]int{0, 1, 5}, [3]int{1, 0, 9}, [3]int{0, 1, 1}), []int{1}, []int{2}, 9},
+		{samples.Graph(4, [3]int{2, 3, 5}, [3]int{3, 2, 5}), []int{0, 1}, nil, 0},
+		{samples.Graph(4, [3]int{2, 3, 5}, [3]int{3, 2, 5}), []int{2, 3}, nil, 0},
+		{samples.Graph(2, [3]int{0, 1, most}), []int{0}, []int{0}, most},
+		{samples.Graph(2, [3]int{0, 1, most - 1}, [3]int{0, 1, 1}), []int{0}, []int{0, 1}, most},
+		{samples.Graph(3, [3]int{0, 1, most / 2}, [3]int{0, 2, most / 2}), []int{0}, []int{0, 1}, most},
+		{samples.Full(), []int{0, 2, 4, 6}, []int{0, 2, 4, 6}, most / 4},
+		{samples.Full(), []int{0, 1, 2, 3, 4, 5, 6}, []int{6, 13}, most / 8},
+		{samples.Full(), []int{7}, []int{7, 15}, most / 8},
+		{samples.Graph(2, slices.Repeat([][3]int{{1, 0, most / api.MaxLinks}}, api.MaxLinks)...), []int{1}, []int{0, 1, 2, 3, 4, 5, 6, 7, 8, 9, 10, 11, 12, 13, 14, 15}, most},
 	}
 }
 
@@ -270,14 +167,14 @@ func TestLeaving(t *testing.T) {
 		}
 	}
 	for _, vs := range noVertices() {
-		if got, err := cut.Leaving(town(), vs); len(got) != 0 || err != api.ErrCutForm {
+		if got, err := cut.Leaving(samples.Town(), vs); len(got) != 0 || err != api.ErrCutForm {
 			t.Errorf("Leaving(%v): %v, %d", vs, got, err)
 		}
 	}
-	for _, b := range badGraphs() {
+	for _, b := range samples.BadGraphs() {
 		for _, vs := range append(noVertices(), nil, []int{0}, []int{0, 1}, []int{3}) {
-			if got, err := cut.Leaving(b.g, vs); len(got) != 0 || err != api.ErrCutForm {
-				t.Errorf("%s: Leaving(%v, %v): %v, %d", b.name, b.g, vs, got, err)
+			if got, err := cut.Leaving(b.Graph, vs); len(got) != 0 || err != api.ErrCutForm {
+				t.Errorf("%s: Leaving(%v, %v): %v, %d", b.Name, b.Graph, vs, got, err)
 			}
 		}
 	}
@@ -285,7 +182,7 @@ func TestLeaving(t *testing.T) {
 
 func TestWorthOfTheGraphsCaps(t *testing.T) {
 	for _, s := range sides() {
-		if got, err := cut.Worth(s.g, capsOf(s.g), s.vs); got != s.worth || err != api.OK {
+		if got, err := cut.Worth(s.g, samples.Caps(s.g), s.vs); got != s.worth || err != api.OK {
 			t.Errorf("Worth(%v, %v): %d, %d, want %d, OK", s.g, s.vs, got, err, s.worth)
 		}
 		if got, err := cut.Worth(s.g, make([]int, len(s.g.Links)), s.vs); got != 0 || err != api.OK {
@@ -299,7 +196,7 @@ func TestWorthOfEachCap(t *testing.T) {
 	for _, s := range sides() {
 		for i := range s.g.Links {
 			for _, c := range []int{0, min(1, s.g.Links[i].Cap), s.g.Links[i].Cap / 2} {
-				caps, want := capsOf(s.g), s.worth
+				caps, want := samples.Caps(s.g), s.worth
 				if slices.Contains(s.links, i) {
 					want -= caps[i] - c
 				}
@@ -320,20 +217,20 @@ func TestWorthOfWhatMayNotBe(t *testing.T) {
 		}
 	}
 	for _, vs := range noVertices() {
-		refused("no vertices", town(), capsOf(town()), vs)
-		for _, caps := range noCaps(town()) {
-			refused("no vertices and no caps", town(), caps, vs)
+		refused("no vertices", samples.Town(), samples.Caps(samples.Town()), vs)
+		for _, caps := range samples.Outside(samples.Caps(samples.Town())) {
+			refused("no vertices and no caps", samples.Town(), caps, vs)
 		}
 	}
 	for _, s := range sides() {
-		for _, caps := range noCaps(s.g) {
+		for _, caps := range samples.Outside(samples.Caps(s.g)) {
 			refused("no caps", s.g, caps, s.vs)
 		}
 	}
-	for _, b := range badGraphs() {
+	for _, b := range samples.BadGraphs() {
 		for _, vs := range [][]int{nil, {0}, {0, 1}, {1, 0}, {9}} {
-			for _, caps := range [][]int{nil, {}, {0}, capsOf(b.g), make([]int, len(b.g.Links))} {
-				refused(b.name, b.g, caps, vs)
+			for _, caps := range [][]int{nil, {}, {0}, samples.Caps(b.Graph), make([]int, len(b.Graph.Links))} {
+				refused(b.Name, b.Graph, caps, vs)
 			}
 		}
 	}
@@ -353,27 +250,27 @@ type proof struct {
 
 // proofs: cuts that may be, with caps that are all 0, that are the links' Caps, and others.
 func proofs() []proof {
-	one := of(2, [3]int{0, 1, 5})
-	wide := of(2, [3]int{0, 1, most - 1}, [3]int{0, 1, 1})
+	one := samples.Graph(2, [3]int{0, 1, 5})
+	wide := samples.Graph(2, [3]int{0, 1, most - 1}, [3]int{0, 1, 1})
 	return []proof{
-		{town(), capsOf(town()), 0, 3, []int{0}, 7},
-		{town(), capsOf(town()), 0, 3, []int{0, 1}, 7},
-		{town(), capsOf(town()), 0, 3, []int{0, 2}, 11},
-		{town(), capsOf(town()), 1, 3, []int{0, 1, 2}, 10},
-		{town(), capsOf(town()), 3, 2, []int{0, 1, 3}, 1},
-		{town(), capsOf(town()), 3, 1, []int{2, 3}, 7},
-		{town(), make([]int, 8), 0, 3, []int{0}, 0},
-		{town(), []int{1, 6, 7, 1, 1, 4, 3, 0}, 0, 3, []int{0}, 2},
-		{town(), []int{5, 0, 7, 2, 0, 4, 3, 0}, 0, 3, []int{0, 1}, 0},
+		{samples.Town(), samples.Caps(samples.Town()), 0, 3, []int{0}, 7},
+		{samples.Town(), samples.Caps(samples.Town()), 0, 3, []int{0, 1}, 7},
+		{samples.Town(), samples.Caps(samples.Town()), 0, 3, []int{0, 2}, 11},
+		{samples.Town(), samples.Caps(samples.Town()), 1, 3, []int{0, 1, 2}, 10},
+		{samples.Town(), samples.Caps(samples.Town()), 3, 2, []int{0, 1, 3}, 1},
+		{samples.Town(), samples.Caps(samples.Town()), 3, 1, []int{2, 3}, 7},
+		{samples.Town(), make([]int, 8), 0, 3, []int{0}, 0},
+		{samples.Town(), []int{1, 6, 7, 1, 1, 4, 3, 0}, 0, 3, []int{0}, 2},
+		{samples.Town(), []int{5, 0, 7, 2, 0, 4, 3, 0}, 0, 3, []int{0, 1}, 0},
 		{one, []int{5}, 0, 1, []int{0}, 5},
 		{one, []int{4}, 0, 1, []int{0}, 4},
 		{one, []int{0}, 0, 1, []int{0}, 0},
 		{one, []int{5}, 1, 0, []int{1}, 0},
-		{of(2), nil, 0, 1, []int{0}, 0},
-		{of(api.MaxVerts), []int{}, 7, 0, []int{7}, 0},
-		{wide, capsOf(wide), 0, 1, []int{0}, most},
+		{samples.Graph(2), nil, 0, 1, []int{0}, 0},
+		{samples.Graph(api.MaxVerts), []int{}, 7, 0, []int{7}, 0},
+		{wide, samples.Caps(wide), 0, 1, []int{0}, most},
 		{wide, []int{most - 1, 0}, 0, 1, []int{0}, most - 1},
-		{full(), capsOf(full()), 0, 7, []int{0, 1, 2, 3, 4, 5, 6}, most / 8},
+		{samples.Full(), samples.Caps(samples.Full()), 0, 7, []int{0, 1, 2, 3, 4, 5, 6}, most / 8},
 	}
 }
 
@@ -389,7 +286,7 @@ func TestProves(t *testing.T) {
 
 // Vertices that are no cut between src and dst prove nothing, and are no error.
 func TestProvesOfNoCut(t *testing.T) {
-	g, caps := town(), make([]int, 8)
+	g, caps := samples.Town(), make([]int, 8)
 	prove := func(src int, dst int, vs []int) {
 		t.Helper()
 		for _, rate := range []int{math.MinInt, 0, 1, most, math.MaxInt} {
@@ -421,7 +318,7 @@ func TestProvesOfWhatMayNotBe(t *testing.T) {
 		}
 	}
 	for _, p := range proofs() {
-		for _, caps := range noCaps(p.g) {
+		for _, caps := range samples.Outside(samples.Caps(p.g)) {
 			refused("no caps", p.g, caps, p.src, p.dst, most, p.vs)
 			refused("no caps, a rate of 0", p.g, caps, p.src, p.dst, 0, p.vs)
 			refused("no caps, a rate below 0", p.g, caps, p.src, p.dst, -1, p.vs)
@@ -432,12 +329,12 @@ func TestProvesOfWhatMayNotBe(t *testing.T) {
 			refused("no caps, no vertices", p.g, caps, p.src, p.dst, most, []int{p.src, p.src})
 		}
 	}
-	for _, b := range badGraphs() {
-		for _, caps := range [][]int{nil, {}, {0}, {-1}, capsOf(b.g), make([]int, len(b.g.Links))} {
+	for _, b := range samples.BadGraphs() {
+		for _, caps := range [][]int{nil, {}, {0}, {-1}, samples.Caps(b.Graph), make([]int, len(b.Graph.Links))} {
 			for _, vs := range [][]int{nil, {0}, {0, 1}, {1, 0}, {-1}} {
-				refused(b.name, b.g, caps, 0, 1, 5, vs)
-				refused(b.name, b.g, caps, 0, 3, math.MaxInt, vs)
-				refused(b.name, b.g, caps, -1, 0, 0, vs)
+				refused(b.Name, b.Graph, caps, 0, 1, 5, vs)
+				refused(b.Name, b.Graph, caps, 0, 3, math.MaxInt, vs)
+				refused(b.Name, b.Graph, caps, -1, 0, 0, vs)
 			}
 		}
 	}
@@ -520,22 +417,11 @@ func check(t *testing.T, g api.Graph, caps []int, src int, dst int, rate int, vs
 	return may
 }
 
-// lists gives all lists of up to so many of these numbers.
-func lists(of []int, length int) [][]int {
-	all := [][]int{nil}
-	for at := 0; at < len(all); at++ {
-		for i := 0; i < len(of) && len(all[at]) < length; i++ {
-			all = append(all, append(slices.Clone(all[at]), of[i]))
-		}
-	}
-	return all
-}
-
 func TestAllSmallLists(t *testing.T) {
-	triangle := of(3, [3]int{0, 1, 3}, [3]int{1, 2, 2}, [3]int{2, 0, 1}, [3]int{0, 2, 0}, [3]int{1, 0, 2}, [3]int{0, 1, 1})
+	triangle := samples.Graph(3, [3]int{0, 1, 3}, [3]int{1, 2, 2}, [3]int{2, 0, 1}, [3]int{0, 2, 0}, [3]int{1, 0, 2}, [3]int{0, 1, 1})
 	broken := api.Graph{Verts: 3, Links: append(slices.Clone(triangle.Links), api.Link{From: 1, To: 1})}
-	allCaps := [][]int{capsOf(triangle), make([]int, 6), {3, 2, 1, 1, 2, 1}, {2, 1, 0, 0, 1, 1}, {3, 2, 1, 0, 2}, append(capsOf(triangle), 0)}
-	for _, vs := range lists([]int{-1, 0, 1, 2, 3}, 4) {
+	allCaps := [][]int{samples.Caps(triangle), make([]int, 6), {3, 2, 1, 1, 2, 1}, {2, 1, 0, 0, 1, 1}, {3, 2, 1, 0, 2}, append(samples.Caps(triangle), 0)}
+	for _, vs := range samples.Lists([]int{-1, 0, 1, 2, 3}, 4) {
 		for _, caps := range allCaps {
 			for src := -1; src <= 3; src++ {
 				for dst := -1; dst <= 3; dst++ {
@@ -549,19 +435,9 @@ func TestAllSmallLists(t *testing.T) {
 	}
 }
 
-// someGraph makes a graph by chance, its Caps below size.
-func someGraph(r *rand.Rand, size int) api.Graph {
-	g := api.Graph{Verts: 2 + r.Intn(api.MaxVerts-1)}
-	for range r.Intn(api.MaxLinks + 1) {
-		from := r.Intn(g.Verts)
-		g.Links = append(g.Links, api.Link{From: from, To: (from + 1 + r.Intn(g.Verts-1)) % g.Verts, Cap: r.Intn(size)})
-	}
-	return g
-}
-
 // someCaps makes caps of the graph by chance; now and then one of them is none.
 func someCaps(r *rand.Rand, g api.Graph) []int {
-	caps := capsOf(g)
+	caps := samples.Caps(g)
 	for i, c := range caps {
 		if r.Intn(2) == 0 {
 			caps[i] = r.Intn(c + 1)
@@ -578,7 +454,7 @@ func TestWhateverCuts(t *testing.T) {
 	cuts := 0
 	for range 20000 {
 		size := []int{1, 6, 1000, most / api.MaxLinks}[r.Intn(4)]
-		g := someGraph(r, size)
+		g := samples.Drawn(r.Intn, size)
 		caps := someCaps(r, g)
 		var vs []int
 		for v := range g.Verts {
@@ -604,18 +480,12 @@ func TestWhateverCuts(t *testing.T) {
 
 // R4: what is handed in is not changed, nor its spare room, nor kept; answers are new memory.
 
-// roomy gives a list with spare room that holds that value, and the whole of it.
-func roomy[T any](list []T, spare T) ([]T, []T) {
-	whole := append(slices.Clone(list), spare, spare, spare)
-	return whole[:len(list)], whole
-}
-
 func TestWhatIsHandedInIsNotChanged(t *testing.T) {
 	untouched := func(g api.Graph, caps []int, vs []int) {
 		t.Helper()
-		links, wholeLinks := roomy(g.Links, api.Link{From: -7, To: -8, Cap: -9})
-		caps, wholeCaps := roomy(caps, -7)
-		vs, wholeVerts := roomy(vs, -7)
+		links, wholeLinks := samples.Roomy(g.Links, api.Link{From: -7, To: -8, Cap: -9})
+		caps, wholeCaps := samples.Roomy(caps, -7)
+		vs, wholeVerts := samples.Roomy(vs, -7)
 		wasLinks, wasCaps, wasVerts := slices.Clone(wholeLinks), slices.Clone(wholeCaps), slices.Clone(wholeVerts)
 		handed := api.Graph{Verts: g.Verts, Links: links}
 		cut.Leaving(handed, vs)
@@ -629,32 +499,25 @@ func TestWhatIsHandedInIsNotChanged(t *testing.T) {
 		}
 	}
 	for _, s := range sides() {
-		untouched(s.g, capsOf(s.g), s.vs)
-		for _, caps := range noCaps(s.g) {
+		untouched(s.g, samples.Caps(s.g), s.vs)
+		for _, caps := range samples.Outside(samples.Caps(s.g)) {
 			untouched(s.g, caps, s.vs)
 		}
 	}
 	for _, vs := range noVertices() {
-		untouched(town(), capsOf(town()), vs)
+		untouched(samples.Town(), samples.Caps(samples.Town()), vs)
 	}
-	for _, b := range badGraphs() {
-		untouched(b.g, capsOf(b.g), []int{0, 1})
-	}
-}
-
-// spoil writes over a list and its spare room.
-func spoil(list []int) {
-	for i := range list[:cap(list)] {
-		list[:cap(list)][i] = -5
+	for _, b := range samples.BadGraphs() {
+		untouched(b.Graph, samples.Caps(b.Graph), []int{0, 1})
 	}
 }
 
 func TestAnswersAreNewMemory(t *testing.T) {
 	for _, s := range sides() {
-		caps, vs := capsOf(s.g), slices.Clone(s.vs)
+		caps, vs := samples.Caps(s.g), slices.Clone(s.vs)
 		links, _ := cut.Leaving(s.g, vs)
 		other, _ := cut.Leaving(s.g, vs)
-		spoil(links)
+		samples.Spoil(links)
 		more, err := cut.Leaving(s.g, vs)
 		if !slices.Equal(other, s.links) || !slices.Equal(more, s.links) || err != api.OK || !slices.Equal(vs, s.vs) {
 			t.Errorf("%v: %v, then %v, want %v", s.vs, other, more, s.links)
@@ -668,26 +531,26 @@ func TestAnswersAreNewMemory(t *testing.T) {
 func TestWhatIsHandedInIsNotKept(t *testing.T) {
 	for _, s := range sides() {
 		g := api.Graph{Verts: s.g.Verts, Links: slices.Clone(s.g.Links)}
-		caps, vs := capsOf(g), slices.Clone(s.vs)
+		caps, vs := samples.Caps(g), slices.Clone(s.vs)
 		links, _ := cut.Leaving(g, vs)
 		worth, _ := cut.Worth(g, caps, vs)
 		for i := range g.Links {
 			g.Links[i] = api.Link{From: 1, To: 0, Cap: 2}
 			caps[i] = 1
 		}
-		spoil(vs)
+		samples.Spoil(vs)
 		if !slices.Equal(links, s.links) || worth != s.worth {
 			t.Errorf("%v: the answer turned: %v, %d", s.vs, links, worth)
 		}
 		check(t, g, caps, 1, 0, 2, []int{1})
-		check(t, s.g, capsOf(s.g), 0, 1, 2, s.vs)
+		check(t, s.g, samples.Caps(s.g), 0, 1, 2, s.vs)
 	}
 }
 
 // R5: from several goroutines at one time.
 
 func TestFromSeveralGoroutines(t *testing.T) {
-	g, caps, vs := town(), capsOf(town()), []int{0, 1, 2}
+	g, caps, vs := samples.Town(), samples.Caps(samples.Town()), []int{0, 1, 2}
 	var all sync.WaitGroup
 	for range 8 {
 		all.Go(func() {

@@ -18,6 +18,67 @@ func ways(caps ...int) api.Graph {
 	return g
 }
 
+func TestNumbers(t *testing.T) {
+	for _, g := range []api.Graph{ways(), ways(1), ways(0, 0, 0), {Verts: api.MaxVerts, Links: make([]api.Link, api.MaxLinks)}} {
+		for _, x := range []struct {
+			name string
+			ask  func(api.Graph, ...int) bool
+			many int
+		}{
+			{"Verts", within.Verts, g.Verts},
+			{"Links", within.Links, len(g.Links)},
+			{"Arcs", within.Arcs, 2 * len(g.Links)},
+		} {
+			var all []int
+			if !x.ask(g) {
+				t.Errorf("%s of none, %d", x.name, x.many)
+			}
+			for n := range x.many {
+				all = append(all, n)
+				if !x.ask(g, n) || !x.ask(g, all...) {
+					t.Errorf("%s(%d), %d", x.name, n, x.many)
+				}
+			}
+			for _, no := range []int{math.MinInt, -1, x.many, x.many + 1, math.MaxInt} {
+				if x.ask(g, no) || x.ask(g, append([]int{no}, all...)...) || x.ask(g, append(slices.Clone(all), no)...) {
+					t.Errorf("%s(%d), %d", x.name, no, x.many)
+				}
+			}
+		}
+	}
+}
+
+func TestRates(t *testing.T) {
+	for _, x := range []struct {
+		caps []int
+		f    []int
+		want bool
+	}{
+		{nil, nil, true},
+		{nil, []int{}, true},
+		{nil, []int{0}, false},
+		{[]int{5, 0}, []int{5, 0}, true},
+		{[]int{5, 0}, []int{0, 0}, true},
+		{[]int{5, 0}, []int{6, 0}, false},
+		{[]int{5, 0}, []int{5, 1}, false},
+		{[]int{5, 0}, []int{5, -1}, false},
+		{[]int{5, 0}, []int{-1, 0}, false},
+		{[]int{5, 0}, []int{5}, false},
+		{[]int{5, 0}, []int{5, 0, 0}, false},
+		{[]int{api.MaxRate}, []int{api.MaxRate}, true},
+		{[]int{api.MaxRate}, []int{api.MaxRate + 1}, false},
+		{[]int{api.MaxRate}, []int{math.MinInt}, false},
+	} {
+		caps, f := slices.Clone(x.caps), slices.Clone(x.f)
+		if got := within.Rates(x.caps, x.f); got != x.want {
+			t.Errorf("Rates(%v, %v): %t", x.caps, x.f, got)
+		}
+		if !slices.Equal(x.caps, caps) || !slices.Equal(x.f, f) {
+			t.Errorf("changed: %v, %v", x.caps, x.f)
+		}
+	}
+}
+
 func TestCaps(t *testing.T) {
 	const most = api.MaxRate
 	for _, x := range []struct {

@@ -1,0 +1,135 @@
+// Package samples makes what the tests of several layers hand in: graphs that may be and that may not, caps, lists with spare room.
+package samples
+
+import (
+	"math"
+	"slices"
+
+	"tollbar/api"
+)
+
+// Graph makes a graph of links that are told as From, To, Cap.
+func Graph(verts int, links ...[3]int) api.Graph {
+	g := api.Graph{Verts: verts}
+	for _, l := range links {
+		g.Links = append(g.Links, api.Link{From: l[0], To: l[1], Cap: l[2]})
+	}
+	return g
+}
+
+// Town: links 0 and 3 lie side by side, 6 goes back beside them; 7 takes nothing.
+func Town() api.Graph {
+	return Graph(4, [3]int{0, 1, 5}, [3]int{1, 3, 6}, [3]int{3, 0, 7}, [3]int{0, 1, 2}, [3]int{1, 2, 1}, [3]int{2, 3, 4}, [3]int{1, 0, 3}, [3]int{0, 3, 0})
+}
+
+// Full: as many vertices and links as may be, MaxRate together; link i goes from its vertex to the next one, or the one behind that.
+func Full() api.Graph {
+	g := api.Graph{Verts: api.MaxVerts}
+	for i := range api.MaxLinks {
+		v := i % api.MaxVerts
+		g.Links = append(g.Links, api.Link{From: v, To: (v + 1 + i/api.MaxVerts) % api.MaxVerts, Cap: api.MaxRate / api.MaxLinks})
+	}
+	return g
+}
+
+// Caps gives the Caps of the graph.
+func Caps(g api.Graph) []int {
+	var caps []int
+	for _, l := range g.Links {
+		caps = append(caps, l.Cap)
+	}
+	return caps
+}
+
+// Bad is a graph that may not be, and why.
+type Bad struct {
+	Name  string
+	Graph api.Graph
+}
+
+// BadGraphs: Town with one thing turned, for each of layer 4's reasons, and graphs that are little else.
+func BadGraphs() []Bad {
+	const most = api.MaxRate
+	bads := []Bad{
+		{"nothing", api.Graph{}},
+		{"an empty list", api.Graph{Links: []api.Link{}}},
+		{"one vertex", Graph(1)},
+		{"one above MaxVerts", Graph(api.MaxVerts + 1)},
+		{"only a link from 0 to 0", Graph(2, [3]int{0, 0, 1})},
+		{"MaxRate four times, 0 in an int", Graph(2, [3]int{0, 1, most}, [3]int{0, 1, most}, [3]int{0, 1, most}, [3]int{0, 1, most})},
+	}
+	turn := func(name string, how func(g *api.Graph)) {
+		g := Town()
+		how(&g)
+		bads = append(bads, Bad{name, g})
+	}
+	for _, verts := range []int{math.MinInt, -1, 0, 1, api.MaxVerts + 1, math.MaxInt} {
+		turn("Verts", func(g *api.Graph) { g.Verts = verts })
+	}
+	for _, n := range []int{api.MaxLinks + 1, 2 * api.MaxLinks} {
+		turn("too many links", func(g *api.Graph) { g.Links = slices.Repeat(g.Links, 4)[:n] })
+	}
+	for _, at := range []int{0, 4, 7} {
+		for _, v := range []int{math.MinInt, -1, 4, math.MaxInt} {
+			turn("From is no vertex", func(g *api.Graph) { g.Links[at].From = v })
+			turn("To is no vertex", func(g *api.Graph) { g.Links[at].To = v })
+		}
+		turn("From and To alike", func(g *api.Graph) { g.Links[at].To = g.Links[at].From })
+		for _, c := range []int{math.MinInt, -1, most + 1, math.MaxInt} {
+			turn("Cap is no rate", func(g *api.Graph) { g.Links[at].Cap = c })
+		}
+		turn("above MaxRate together", func(g *api.Graph) { g.Links[at].Cap = most })
+	}
+	return bads
+}
+
+// Outside: lists that do not lie within caps.
+func Outside(caps []int) [][]int {
+	all := [][]int{append(slices.Clone(caps), 0), append(slices.Clone(caps), -1), make([]int, len(caps)+1), make([]int, 100000)}
+	if len(caps) == 0 {
+		return all
+	}
+	all = append(all, nil, []int{}, slices.Clone(caps[1:]), make([]int, len(caps)-1))
+	for i, c := range caps {
+		for _, no := range []int{math.MinInt, -api.MaxRate, -1, c + 1, api.MaxRate + 1, math.MaxInt} {
+			list := slices.Clone(caps)
+			list[i] = no
+			all = append(all, list)
+		}
+	}
+	return all
+}
+
+// Lists gives all lists of up to so many of these numbers, the shorter ones first.
+func Lists(numbers []int, length int) [][]int {
+	all := [][]int{nil}
+	for at := 0; at < len(all); at++ {
+		for i := 0; i < len(numbers) && len(all[at]) < length; i++ {
+			all = append(all, append(slices.Clone(all[at]), numbers[i]))
+		}
+	}
+	return all
+}
+
+// Drawn makes a graph that may be of what draw picks below the number that it is given; its Caps are below size, at most MaxRate by MaxLinks.
+func Drawn(draw func(below int) int, size int) api.Graph {
+	g := api.Graph{Verts: 2 + draw(api.MaxVerts-1)}
+	for range draw(api.MaxLinks + 1) {
+		from := draw(g.Verts)
+		g.Links = append(g.Links, api.Link{From: from, To: (from + 1 + draw(g.Verts-1)) % g.Verts, Cap: draw(size)})
+	}
+	return g
+}
+
+// Roomy gives a list with spare room that holds that value, and the whole of it.
+func Roomy[T any](list []T, spare T) ([]T, []T) {
+	whole := append(slices.Clone(list), spare, spare, spare)
+	return whole[:len(list)], whole
+}
+
+// Spoil writes over a list and its spare room.
+func Spoil(list []int) {
+	for i := range list[:cap(list)] {
+		list[:cap(list)][i] = -5
+	}
+}

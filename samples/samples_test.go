@@ -1,0 +1,64 @@
+package samples_test
+
+import (
+	"math/rand"
+	"slices"
+	"testing"
+
+	"tollbar/api"
+	"tollbar/graph"
+	"tollbar/samples"
+	"tollbar/within"
+)
+
+func TestGraphs(t *testing.T) {
+	for _, g := range []api.Graph{samples.Town(), samples.Full()} {
+		if !graph.May(g) || !within.Caps(g, samples.Caps(g)) {
+			t.Errorf("%v may not be", g)
+		}
+	}
+	for _, b := range samples.BadGraphs() {
+		if graph.May(b.Graph) {
+			t.Errorf("%s: %v may be", b.Name, b.Graph)
+		}
+	}
+}
+
+func TestOutside(t *testing.T) {
+	for _, caps := range [][]int{nil, {0}, {5, 0, api.MaxRate}, samples.Caps(samples.Town())} {
+		for _, list := range samples.Outside(caps) {
+			if within.Rates(caps, list) {
+				t.Errorf("%v lies within %v", list, caps)
+			}
+		}
+	}
+}
+
+func TestLists(t *testing.T) {
+	want := [][]int{nil, {3}, {7}, {3, 3}, {3, 7}, {7, 3}, {7, 7}}
+	if got := samples.Lists([]int{3, 7}, 2); !slices.EqualFunc(got, want, slices.Equal) {
+		t.Errorf("%v", got)
+	}
+}
+
+func TestDrawn(t *testing.T) {
+	r := rand.New(rand.NewSource(1))
+	for range 1000 {
+		for _, size := range []int{1, 6, api.MaxRate / api.MaxLinks} {
+			if g := samples.Drawn(r.Intn, size); !graph.May(g) {
+				t.Errorf("%v may not be", g)
+			}
+		}
+	}
+}
+
+func TestRoomyAndSpoil(t *testing.T) {
+	list, whole := samples.Roomy([]int{1, 2}, 7)
+	if !slices.Equal(list, []int{1, 2}) || !slices.Equal(whole, []int{1, 2, 7, 7, 7}) {
+		t.Errorf("%v of %v", list, whole)
+	}
+	samples.Spoil(list)
+	if !slices.Equal(whole, []int{-5, -5, -5, -5, -5}) {
+		t.Errorf("spoilt: %v", whole)
+	}
+}
