@@ -1,4 +1,4 @@
-// Package samples makes what the tests of several layers hand in: graphs that may be and that may not, caps, lists with spare room.
+// Package samples makes what the tests of several layers hand in: graphs that may be and that may not, caps, lists within them and not, lists with spare room.
 package samples
 
 import (
@@ -100,6 +100,45 @@ func Outside(caps []int) [][]int {
 	return all
 }
 
+// NoVerts: numbers that are no vertices of the graph.
+func NoVerts(g api.Graph) []int {
+	return []int{math.MinInt, -g.Verts, -1, g.Verts, g.Verts + 1, math.MaxInt}
+}
+
+// Misfit is a graph, caps and a list that do not go together, and why.
+type Misfit struct {
+	Name  string
+	Graph api.Graph
+	Caps  []int
+	List  []int
+}
+
+// Misfits: caps that are none of the graph, and lists that do not lie within the caps of it that are handed in.
+func Misfits(g api.Graph, caps []int) []Misfit {
+	var all []Misfit
+	for _, no := range Outside(Caps(g)) {
+		all = append(all, Misfit{"no caps", g, no, make([]int, len(g.Links))}, Misfit{"no caps, nor within them", g, no, no})
+	}
+	for _, no := range Outside(caps) {
+		all = append(all, Misfit{"not within caps", g, caps, no})
+	}
+	return all
+}
+
+// BadMisfits: graphs that may not be, with caps and lists of which some would be theirs.
+func BadMisfits() []Misfit {
+	var all []Misfit
+	for _, b := range BadGraphs() {
+		lists := [][]int{nil, make([]int, len(b.Graph.Links)), Caps(b.Graph)}
+		for _, caps := range lists {
+			for _, f := range lists {
+				all = append(all, Misfit{b.Name, b.Graph, caps, f})
+			}
+		}
+	}
+	return all
+}
+
 // Lists gives all lists of up to so many of these numbers, the shorter ones first.
 func Lists(numbers []int, length int) [][]int {
 	all := [][]int{nil}
@@ -119,6 +158,20 @@ func Drawn(draw func(below int) int, size int) api.Graph {
 		g.Links = append(g.Links, api.Link{From: from, To: (from + 1 + draw(g.Verts-1)) % g.Verts, Cap: draw(size)})
 	}
 	return g
+}
+
+// DrawnBelow makes a list of what draw picks below the number that it is given: of each cap itself or at most it; now and then a number is out of its bounds.
+func DrawnBelow(draw func(below int) int, caps []int) []int {
+	list := slices.Clone(caps)
+	for i, c := range caps {
+		if c >= 0 && draw(2) == 0 {
+			list[i] = draw(c + 1)
+		}
+		if draw(200) == 0 {
+			list[i] = []int{-1, c + 1}[draw(2)]
+		}
+	}
+	return list
 }
 
 // Roomy gives a list with spare room that holds that value, and the whole of it.

@@ -34,6 +34,29 @@ func TestOutside(t *testing.T) {
 	}
 }
 
+func TestNoVerts(t *testing.T) {
+	for _, g := range []api.Graph{samples.Graph(2), samples.Town(), samples.Full()} {
+		for _, no := range samples.NoVerts(g) {
+			if within.Verts(g, no) {
+				t.Errorf("%d is a vertex of %v", no, g)
+			}
+		}
+	}
+}
+
+func TestMisfits(t *testing.T) {
+	all := samples.BadMisfits()
+	for _, g := range []api.Graph{samples.Graph(2), samples.Town(), samples.Full()} {
+		all = append(all, samples.Misfits(g, samples.Caps(g))...)
+		all = append(all, samples.Misfits(g, make([]int, len(g.Links)))...)
+	}
+	for _, m := range all {
+		if graph.May(m.Graph) && within.Caps(m.Graph, m.Caps) && within.Rates(m.Caps, m.List) {
+			t.Errorf("%s: %v, %v and %v go together", m.Name, m.Graph, m.Caps, m.List)
+		}
+	}
+}
+
 func TestLists(t *testing.T) {
 	want := [][]int{nil, {3}, {7}, {3, 3}, {3, 7}, {7, 3}, {7, 7}}
 	if got := samples.Lists([]int{3, 7}, 2); !slices.EqualFunc(got, want, slices.Equal) {
@@ -49,6 +72,22 @@ func TestDrawn(t *testing.T) {
 				t.Errorf("%v may not be", g)
 			}
 		}
+	}
+}
+
+func TestDrawnBelow(t *testing.T) {
+	r := rand.New(rand.NewSource(2))
+	caps := []int{0, 1, 5, api.MaxRate}
+	inside, outside := 0, 0
+	for range 1000 {
+		if list := samples.DrawnBelow(r.Intn, caps); within.Rates(caps, list) {
+			inside++
+		} else if outside++; len(list) != len(caps) {
+			t.Errorf("%v is not as long as %v", list, caps)
+		}
+	}
+	if inside < 900 || outside == 0 {
+		t.Errorf("%d within, %d not", inside, outside)
 	}
 }
 

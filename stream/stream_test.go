@@ -72,11 +72,6 @@ func (c current) isFlow(src int, dst int) bool {
 	return src != dst && c.gains[src] >= 0
 }
 
-// noVertices: numbers that are none of the graph.
-func noVertices(g api.Graph) []int {
-	return []int{math.MinInt, -g.Verts, -1, g.Verts, g.Verts + 1, math.MaxInt}
-}
-
 // P9.1: May.
 
 func TestMay(t *testing.T) {
@@ -163,31 +158,19 @@ func TestMayOfWhatMayNotBe(t *testing.T) {
 	}
 	for _, c := range currents() {
 		zero := make([]int, len(c.g.Links))
-		for _, caps := range samples.Outside(samples.Caps(c.g)) {
-			refused("no caps", c.g, caps, zero, 0, 1)
-			refused("no caps, nor within them", c.g, caps, caps, 0, 1)
-		}
-		for _, f := range samples.Outside(c.caps) {
-			refused("not within caps", c.g, c.caps, f, 0, 1)
-			refused("not within caps", c.g, c.caps, f, 1, 0)
-		}
-		for _, no := range noVertices(c.g) {
+		for _, no := range samples.NoVerts(c.g) {
 			refused("no source", c.g, c.caps, zero, no, 1)
 			refused("no sink", c.g, c.caps, zero, 0, no)
 			refused("neither", c.g, c.caps, zero, no, no)
 			refused("neither", c.g, c.caps, zero, no, -2)
 		}
 	}
-	for _, b := range samples.BadGraphs() {
-		zero := make([]int, len(b.Graph.Links))
-		for _, caps := range [][]int{nil, zero, samples.Caps(b.Graph)} {
-			for _, f := range [][]int{nil, zero, samples.Caps(b.Graph)} {
-				refused(b.Name, b.Graph, caps, f, 0, 1)
-				refused(b.Name, b.Graph, caps, f, 0, 3)
-				refused(b.Name, b.Graph, caps, f, 3, 0)
-				refused(b.Name, b.Graph, caps, f, -1, 9)
-			}
-		}
+	for _, w := range wrongs() {
+		refused(w.Name, w.Graph, w.Caps, w.List, 0, 1)
+		refused(w.Name, w.Graph, w.Caps, w.List, 1, 0)
+		refused(w.Name, w.Graph, w.Caps, w.List, 0, 3)
+		refused(w.Name, w.Graph, w.Caps, w.List, 3, 0)
+		refused(w.Name, w.Graph, w.Caps, w.List, -1, 9)
 	}
 }
 
@@ -211,7 +194,7 @@ func TestValueOfWhatMayNotBe(t *testing.T) {
 		}
 	}
 	for _, c := range currents() {
-		for _, no := range noVertices(c.g) {
+		for _, no := range samples.NoVerts(c.g) {
 			refused("no vertex", c.g, c.f, no)
 		}
 		for _, f := range samples.Outside(samples.Caps(c.g)) {
@@ -265,33 +248,11 @@ func noArcs(g api.Graph) []int {
 	return []int{math.MinInt, -2, -1, 2 * len(g.Links), 2*len(g.Links) + 1, math.MaxInt - 1, math.MaxInt}
 }
 
-// wrong is what is neither Room's nor Move's, whatever arc is asked for.
-type wrong struct {
-	name string
-	g    api.Graph
-	caps []int
-	f    []int
-}
-
-// wrongs: each of graph, caps and list turned by itself, and together.
-func wrongs() []wrong {
-	var all []wrong
+// wrongs: what is neither Room's nor Move's, whatever arc is asked for.
+func wrongs() []samples.Misfit {
+	all := samples.BadMisfits()
 	for _, c := range currents() {
-		zero := make([]int, len(c.g.Links))
-		for _, caps := range samples.Outside(samples.Caps(c.g)) {
-			all = append(all, wrong{"no caps", c.g, caps, zero}, wrong{"no caps, nor within them", c.g, caps, caps})
-		}
-		for _, f := range samples.Outside(c.caps) {
-			all = append(all, wrong{"not within caps", c.g, c.caps, f})
-		}
-	}
-	for _, b := range samples.BadGraphs() {
-		zero := make([]int, len(b.Graph.Links))
-		for _, caps := range [][]int{nil, zero, samples.Caps(b.Graph)} {
-			for _, f := range [][]int{nil, zero, samples.Caps(b.Graph)} {
-				all = append(all, wrong{b.Name, b.Graph, caps, f})
-			}
-		}
+		all = append(all, samples.Misfits(c.g, c.caps)...)
 	}
 	return all
 }
@@ -309,8 +270,8 @@ func TestRoomOfWhatMayNotBe(t *testing.T) {
 		}
 	}
 	for _, w := range wrongs() {
-		for _, arc := range []int{-1, 0, 1, 2*len(w.g.Links) - 1, 2 * len(w.g.Links)} {
-			refused(w.name, w.g, w.caps, w.f, arc)
+		for _, arc := range []int{-1, 0, 1, 2*len(w.Graph.Links) - 1, 2 * len(w.Graph.Links)} {
+			refused(w.Name, w.Graph, w.Caps, w.List, arc)
 		}
 	}
 }
@@ -465,9 +426,9 @@ func TestMoveOfWhatMayNotBe(t *testing.T) {
 	}
 	for _, w := range wrongs() {
 		for _, by := range []int{-1, 0, 1, most} {
-			refused(w.name, w.g, w.caps, w.f, by)
-			refused(w.name, w.g, w.caps, w.f, by, 0)
-			refused(w.name, w.g, w.caps, w.f, by, 1, 0, -1)
+			refused(w.Name, w.Graph, w.Caps, w.List, by)
+			refused(w.Name, w.Graph, w.Caps, w.List, by, 0)
+			refused(w.Name, w.Graph, w.Caps, w.List, by, 1, 0, -1)
 		}
 	}
 }
@@ -617,20 +578,6 @@ func TestAllSmallMoves(t *testing.T) {
 	}
 }
 
-// someBelow makes a list by chance that lies within caps; now and then it does not.
-func someBelow(r *rand.Rand, caps []int) []int {
-	list := slices.Clone(caps)
-	for i, c := range caps {
-		if c >= 0 && r.Intn(2) == 0 {
-			list[i] = r.Intn(c + 1)
-		}
-		if r.Intn(200) == 0 {
-			list[i] = []int{-1, c + 1}[r.Intn(2)]
-		}
-	}
-	return list
-}
-
 // someWay gives arcs by chance, each beginning where the one ahead of it ends, from 0 until it comes to 1, and whether it does.
 func someWay(r *rand.Rand, g api.Graph) ([]int, bool) {
 	var way []int
@@ -654,8 +601,8 @@ func TestWhateverLists(t *testing.T) {
 	r := rand.New(rand.NewSource(9))
 	for range 20000 {
 		g := samples.Drawn(r.Intn, []int{1, 6, 1000, most / api.MaxLinks}[r.Intn(4)])
-		caps := someBelow(r, samples.Caps(g))
-		f := someBelow(r, caps)
+		caps := samples.DrawnBelow(r.Intn, samples.Caps(g))
+		f := samples.DrawnBelow(r.Intn, caps)
 		check(t, g, caps, f, r.Intn(g.Verts+2)-1, r.Intn(g.Verts+2)-1)
 		var arcs []int
 		for range r.Intn(8) {
@@ -733,7 +680,7 @@ func TestWhatIsHandedInIsNotChanged(t *testing.T) {
 		}
 	}
 	for _, w := range wrongs() {
-		untouched(w.g, w.caps, w.f, 1, 0, 1)
+		untouched(w.Graph, w.Caps, w.List, 1, 0, 1)
 	}
 }
 
