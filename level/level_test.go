@@ -25,15 +25,6 @@ type sample struct {
 	want []int
 }
 
-// line: as many vertices as may be, one behind the other, each link taking 3.
-func line() api.Graph {
-	g := api.Graph{Verts: api.MaxVerts}
-	for v := range api.MaxVerts - 1 {
-		g.Links = append(g.Links, api.Link{From: v, To: v + 1, Cap: 3})
-	}
-	return g
-}
-
 // same gives as many of one number.
 func same(n int, x int) []int {
 	return slices.Repeat([]int{x}, n)
@@ -41,7 +32,7 @@ func same(n int, x int) []int {
 
 // lines: of as many vertices as may be.
 func lines() []sample {
-	long, n := line(), api.MaxVerts-1
+	long, n := samples.Line(), api.MaxVerts-1
 	caps := same(n, 3)
 	return []sample{
 		{"a line", long, caps, same(n, 0), 0, []int{0, 1, 2, 3, 4, 5, 6, 7}},

@@ -32,6 +32,15 @@ func Full() api.Graph {
 	return g
 }
 
+// Line: as many vertices as may be, one behind the other, each link taking 3.
+func Line() api.Graph {
+	g := api.Graph{Verts: api.MaxVerts}
+	for v := range api.MaxVerts - 1 {
+		g.Links = append(g.Links, api.Link{From: v, To: v + 1, Cap: 3})
+	}
+	return g
+}
+
 // Caps gives the Caps of the graph.
 func Caps(g api.Graph) []int {
 	var caps []int
@@ -172,6 +181,45 @@ func DrawnBelow(draw func(below int) int, caps []int) []int {
 		}
 	}
 	return list
+}
+
+// DrawnFlow makes a flow from src to dst of what draw picks below the number that it is given, if caps are of the graph: over ways of arcs, some of them back, some coming to a vertex twice, and over rounds.
+func DrawnFlow(draw func(below int) int, g api.Graph, caps []int, src int, dst int) []int {
+	f := make([]int, len(caps))
+	for range draw(9) {
+		from, to := src, dst
+		if draw(4) == 0 {
+			from = draw(g.Verts)
+			to = from
+		}
+		wander(draw, g, caps, f, from, to)
+	}
+	return f
+}
+
+// wander moves a rate over arcs, one behind the other; f stays as it was, if they do not come to that end.
+func wander(draw func(below int) int, g api.Graph, caps []int, f []int, from int, to int) {
+	if len(caps) == 0 {
+		return
+	}
+	moved, at := slices.Clone(f), from
+	by := 1 + draw(max(1, caps[draw(len(caps))]))
+	for range 8 * len(caps) {
+		i, more := draw(len(caps)), by
+		tail, head := g.Links[i].From, g.Links[i].To
+		if draw(3) == 0 {
+			tail, head, more = head, tail, -by
+		}
+		if tail != at || moved[i]+more < 0 || moved[i]+more > caps[i] {
+			continue
+		}
+		moved[i] += more
+		at = head
+		if at == to && draw(4) > 0 {
+			copy(f, moved)
+			return
+		}
+	}
 }
 
 // Roomy gives a list with spare room that holds that value, and the whole of it.

@@ -8,11 +8,12 @@ import (
 	"tollbar/api"
 	"tollbar/graph"
 	"tollbar/samples"
+	"tollbar/stream"
 	"tollbar/within"
 )
 
 func TestGraphs(t *testing.T) {
-	for _, g := range []api.Graph{samples.Town(), samples.Full()} {
+	for _, g := range []api.Graph{samples.Town(), samples.Full(), samples.Line()} {
 		if !graph.May(g) || !within.Caps(g, samples.Caps(g)) {
 			t.Errorf("%v may not be", g)
 		}
@@ -88,6 +89,32 @@ func TestDrawnBelow(t *testing.T) {
 	}
 	if inside < 900 || outside == 0 {
 		t.Errorf("%d within, %d not", inside, outside)
+	}
+}
+
+func TestDrawnFlow(t *testing.T) {
+	r := rand.New(rand.NewSource(3))
+	flows, full := 0, 0
+	for range 3000 {
+		g := samples.Drawn(r.Intn, []int{1, 6, api.MaxRate / api.MaxLinks}[r.Intn(3)])
+		caps := samples.Caps(g)
+		f := samples.DrawnFlow(r.Intn, g, caps, 0, 1)
+		if !stream.May(g, caps, f, 0, 1) {
+			t.Fatalf("%v is no flow in %v", f, g)
+		}
+		value, _ := stream.Value(g, f, 0)
+		if value > 0 {
+			flows++
+		}
+		for i, c := range caps {
+			if value > 0 && c > 0 && f[i] == c {
+				full++
+				break
+			}
+		}
+	}
+	if flows < 500 || full < 200 {
+		t.Errorf("only %d of a Value above 0, %d of them with a full link", flows, full)
 	}
 }
 
