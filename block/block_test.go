@@ -502,25 +502,10 @@ func TestOneBehindTheOther(t *testing.T) {
 			f, n = check(t, g, caps, f, 0, 1, great)
 			all += n
 		}
-		if least := leastCut(g, caps); all != least {
+		if least := samples.LeastCut(g, caps, 0, 1); all != least {
 			t.Errorf("%v: %v of Value %d, want %d", g, f, all, least)
 		}
 	}
-}
-
-// leastCut gives the least that links out of vertices with 0, without 1, take.
-func leastCut(g api.Graph, caps []int) int {
-	least := math.MaxInt
-	for side := 1; side < 1<<g.Verts; side += 4 {
-		sum := 0
-		for i, l := range g.Links {
-			if side>>l.From&1 == 1 && side>>l.To&1 == 0 {
-				sum += caps[i]
-			}
-		}
-		least = min(least, sum)
-	}
-	return least
 }
 
 // R4: what is handed in is not changed, nor its spare room, nor kept; answers are new memory.

@@ -50,6 +50,24 @@ func Caps(g api.Graph) []int {
 	return caps
 }
 
+// LeastCut gives the least that the links take which leave vertices with src, without dst: just so much can go, if they are unlike vertices.
+func LeastCut(g api.Graph, caps []int, src int, dst int) int {
+	least := math.MaxInt
+	for side := range 1 << g.Verts {
+		if side>>src&1 == 0 || side>>dst&1 == 1 {
+			continue
+		}
+		sum := 0
+		for i, l := range g.Links {
+			if side>>l.From&1 == 1 && side>>l.To&1 == 0 {
+				sum += caps[i]
+			}
+		}
+		least = min(least, sum)
+	}
+	return least
+}
+
 // Bad is a graph that may not be, and why.
 type Bad struct {
 	Name  string

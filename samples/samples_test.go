@@ -25,6 +25,33 @@ func TestGraphs(t *testing.T) {
 	}
 }
 
+func TestLeastCut(t *testing.T) {
+	line, town := samples.Line(), samples.Town()
+	one := samples.Graph(2, [3]int{0, 1, api.MaxRate})
+	for _, x := range []struct {
+		g    api.Graph
+		caps []int
+		src  int
+		dst  int
+		want int
+	}{
+		{samples.Graph(2), nil, 0, 1, 0},
+		{one, []int{api.MaxRate}, 0, 1, api.MaxRate},
+		{one, []int{4}, 0, 1, 4},
+		{one, []int{4}, 1, 0, 0},
+		{line, samples.Caps(line), 0, 7, 3},
+		{line, []int{3, 3, 3, 1, 3, 3, 2}, 0, 7, 1},
+		{line, []int{3, 3, 3, 1, 3, 3, 2}, 4, 7, 2},
+		{town, samples.Caps(town), 0, 3, 7},
+		{town, samples.Caps(town), 2, 0, 4},
+		{town, samples.Caps(town), 3, 2, 1},
+	} {
+		if got := samples.LeastCut(x.g, x.caps, x.src, x.dst); got != x.want {
+			t.Errorf("LeastCut(%v, %v, %d, %d): %d, want %d", x.g, x.caps, x.src, x.dst, got, x.want)
+		}
+	}
+}
+
 func TestOutside(t *testing.T) {
 	for _, caps := range [][]int{nil, {0}, {5, 0, api.MaxRate}, samples.Caps(samples.Town())} {
 		for _, list := range samples.Outside(caps) {
