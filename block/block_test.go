@@ -428,20 +428,10 @@ func TestAllSmallLists(t *testing.T) {
 
 // All graphs of four vertices and up to three links, with all flows of small rates.
 func TestAllSmallGraphs(t *testing.T) {
-	var kinds []int
-	for n := range 16 {
-		if n/4 != n%4 {
-			kinds = append(kinds, n)
-		}
-	}
 	lists := samples.Lists([]int{0, 1, 2}, 3)
-	for _, links := range samples.Lists(kinds, 3) {
-		g := api.Graph{Verts: 4}
-		for _, n := range links {
-			g.Links = append(g.Links, api.Link{From: n / 4, To: n % 4, Cap: 2})
-		}
+	for _, g := range samples.Small(3, 2) {
 		for _, f := range lists {
-			if caps := same(len(links), 2); stream.May(g, caps, f, 0, 3) {
+			if caps := samples.Caps(g); stream.May(g, caps, f, 0, 3) {
 				check(t, g, caps, f, 0, 3, 3)
 			}
 		}

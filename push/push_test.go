@@ -369,17 +369,7 @@ func TestAllSmallCaps(t *testing.T) {
 
 // All graphs of four vertices and up to four links, which take unlike rates.
 func TestAllSmallGraphs(t *testing.T) {
-	var kinds []int
-	for n := range 16 {
-		if n/4 != n%4 {
-			kinds = append(kinds, n)
-		}
-	}
-	for _, links := range samples.Lists(kinds, 4) {
-		g := api.Graph{Verts: 4}
-		for i, n := range links {
-			g.Links = append(g.Links, api.Link{From: n / 4, To: n % 4, Cap: 1 + i%3})
-		}
+	for _, g := range samples.Small(4, 1, 2, 3) {
 		for _, want := range []int{1, great} {
 			check(t, g, samples.Caps(g), 0, 3, want)
 		}

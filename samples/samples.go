@@ -177,6 +177,25 @@ func Lists(numbers []int, length int) [][]int {
 	return all
 }
 
+// Small gives all graphs of four vertices and up to so many links, the fewer ones first; their Caps are these in turn.
+func Small(links int, caps ...int) []api.Graph {
+	var kinds []int
+	for n := range 16 {
+		if n/4 != n%4 {
+			kinds = append(kinds, n)
+		}
+	}
+	var all []api.Graph
+	for _, list := range Lists(kinds, links) {
+		g := api.Graph{Verts: 4}
+		for i, n := range list {
+			g.Links = append(g.Links, api.Link{From: n / 4, To: n % 4, Cap: caps[i%len(caps)]})
+		}
+		all = append(all, g)
+	}
+	return all
+}
+
 // Drawn makes a graph that may be of what draw picks below the number that it is given; its Caps are below size, at most MaxRate by MaxLinks.
 func Drawn(draw func(below int) int, size int) api.Graph {
 	g := api.Graph{Verts: 2 + draw(api.MaxVerts-1)}

@@ -92,6 +92,25 @@ func TestLists(t *testing.T) {
 	}
 }
 
+func TestSmall(t *testing.T) {
+	// Two vertices of four: twelve ways for each link.
+	all := samples.Small(2, 5, 0)
+	if len(all) != 1+12+12*12 {
+		t.Errorf("%d graphs", len(all))
+	}
+	same := func(a api.Graph, b api.Graph) bool { return a.Verts == b.Verts && slices.Equal(a.Links, b.Links) }
+	for i, g := range all {
+		if !graph.May(g) || slices.ContainsFunc(all[:i], func(one api.Graph) bool { return same(one, g) }) {
+			t.Errorf("%v may not be, or comes twice", g)
+		}
+		for at, c := range samples.Caps(g) {
+			if c != []int{5, 0}[at] {
+				t.Errorf("%v, link %d", g, at)
+			}
+		}
+	}
+}
+
 func TestDrawn(t *testing.T) {
 	r := rand.New(rand.NewSource(1))
 	for range 1000 {
