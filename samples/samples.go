@@ -1,4 +1,4 @@
-// Package samples makes what the tests of several layers hand in: graphs that may be and that may not, caps, lists within them and not, lists with spare room.
+// Package samples makes what the tests of several layers hand in: graphs that may be and that may not, caps, lists within them and not, lists with spare room; it holds paths that they get against others, and writes over them.
 package samples
 
 import (
@@ -37,6 +37,15 @@ func Line() api.Graph {
 	g := api.Graph{Verts: api.MaxVerts}
 	for v := range api.MaxVerts - 1 {
 		g.Links = append(g.Links, api.Link{From: v, To: v + 1, Cap: 3})
+	}
+	return g
+}
+
+// Sides: as many links as may be from one vertex to another, of Caps 1, 2, 3 and so on.
+func Sides(from int, to int) api.Graph {
+	g := api.Graph{Verts: 2}
+	for i := range api.MaxLinks {
+		g.Links = append(g.Links, api.Link{From: from, To: to, Cap: i + 1})
 	}
 	return g
 }
@@ -259,6 +268,36 @@ func wander(draw func(below int) int, g api.Graph, caps []int, f []int, from int
 	}
 }
 
+// Alike tells whether paths are those, one behind the other.
+func Alike(a []api.Path, b []api.Path) bool {
+	return slices.EqualFunc(a, b, func(a api.Path, b api.Path) bool {
+		return a.Rate == b.Rate && slices.Equal(a.Links, b.Links)
+	})
+}
+
+// ByLinks gives the paths in the row of their links, those over the same links as one.
+func ByLinks(ps []api.Path) []api.Path {
+	var row []api.Path
+	for _, p := range ps {
+		at, there := slices.BinarySearchFunc(row, p, func(a api.Path, b api.Path) int { return slices.Compare(a.Links, b.Links) })
+		if there {
+			row[at].Rate += p.Rate
+		} else {
+			row = slices.Insert(row, at, api.Path{Rate: p.Rate, Links: slices.Clone(p.Links)})
+		}
+	}
+	return row
+}
+
+// Copied gives the paths in memory of their own.
+func Copied(ps []api.Path) []api.Path {
+	var all []api.Path
+	for _, p := range ps {
+		all = append(all, api.Path{Rate: p.Rate, Links: slices.Clone(p.Links)})
+	}
+	return all
+}
+
 // Roomy gives a list with spare room that holds that value, and the whole of it.
 func Roomy[T any](list []T, spare T) ([]T, []T) {
 	whole := append(slices.Clone(list), spare, spare, spare)
@@ -269,5 +308,15 @@ func Roomy[T any](list []T, spare T) ([]T, []T) {
 func Spoil(list []int) {
 	for i := range list[:cap(list)] {
 		list[:cap(list)][i] = -5
+	}
+}
+
+// SpoilPaths writes over paths, their links, and the spare room of both.
+func SpoilPaths(ps []api.Path) {
+	for _, p := range ps {
+		Spoil(p.Links)
+	}
+	for i := range ps[:cap(ps)] {
+		ps[:cap(ps)][i] = api.Path{Rate: -5, Links: []int{-5}}
 	}
 }

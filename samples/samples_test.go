@@ -13,7 +13,7 @@ import (
 )
 
 func TestGraphs(t *testing.T) {
-	for _, g := range []api.Graph{samples.Town(), samples.Full(), samples.Line()} {
+	for _, g := range []api.Graph{samples.Town(), samples.Full(), samples.Line(), samples.Sides(0, 1), samples.Sides(1, 0)} {
 		if !graph.May(g) || !within.Caps(g, samples.Caps(g)) {
 			t.Errorf("%v may not be", g)
 		}
@@ -172,5 +172,51 @@ func TestRoomyAndSpoil(t *testing.T) {
 	samples.Spoil(list)
 	if !slices.Equal(whole, []int{-5, -5, -5, -5, -5}) {
 		t.Errorf("spoilt: %v", whole)
+	}
+}
+
+// over is a path over links.
+func over(rate int, links ...int) api.Path {
+	return api.Path{Rate: rate, Links: links}
+}
+
+func TestAlike(t *testing.T) {
+	ps := []api.Path{over(2, 0, 1), over(3, 2)}
+	if !samples.Alike(ps, []api.Path{over(2, 0, 1), over(3, 2)}) || !samples.Alike(nil, []api.Path{}) {
+		t.Errorf("unlike")
+	}
+	for _, other := range [][]api.Path{nil, ps[:1], {over(3, 2), over(2, 0, 1)}, {over(2, 0, 1), over(4, 2)}, {over(2, 0, 1), over(3, 3)}, {over(2, 0), over(3, 2)}, {over(2, 0, 1), over(3, 2), over(3, 2)}} {
+		if samples.Alike(ps, other) || samples.Alike(other, ps) {
+			t.Errorf("%v and %v are alike", ps, other)
+		}
+	}
+}
+
+func TestByLinks(t *testing.T) {
+	for _, x := range [][2][]api.Path{
+		{nil, nil},
+		{{over(1, 2), over(5, 0, 3)}, {over(5, 0, 3), over(1, 2)}},
+		{{over(1, 2), over(5, 0, 3), over(4, 0), over(7, 2), over(6, 0, 3)}, {over(4, 0), over(11, 0, 3), over(8, 2)}},
+	} {
+		was := samples.Copied(x[0])
+		if got := samples.ByLinks(x[0]); !samples.Alike(got, x[1]) || !samples.Alike(x[0], was) {
+			t.Errorf("ByLinks(%v): %v, want %v", was, got, x[1])
+		}
+	}
+}
+
+func TestCopiedAndSpoilPaths(t *testing.T) {
+	ps := append(make([]api.Path, 0, 3), over(2, 0, 1), over(3, 2))
+	links, was := ps[0].Links, samples.Copied(ps)
+	if !samples.Alike(was, ps) {
+		t.Errorf("copied: %v", was)
+	}
+	samples.SpoilPaths(ps)
+	spoilt := over(-5, -5)
+	if !samples.Alike(ps[:3], []api.Path{spoilt, spoilt, spoilt}) || !slices.Equal(links, []int{-5, -5}) {
+		t.Errorf("spoilt: %v, %v", ps[:3], links)
+	}
+	if !samples.Alike(was, []api.Path{over(2, 0, 1), over(3, 2)}) {
+		t.Errorf("the copy turned: %v", was)
 	}
 }

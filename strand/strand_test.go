@@ -54,15 +54,6 @@ func ring(turns int) api.Graph {
 	return g
 }
 
-// sides: as many links as may be from one vertex to another, of Caps 1, 2, 3 and so on.
-func sides(from int, to int) api.Graph {
-	g := api.Graph{Verts: 2}
-	for i := range api.MaxLinks {
-		g.Links = append(g.Links, api.Link{From: from, To: to, Cap: i + 1})
-	}
-	return g
-}
-
 // zeros: flows of 0 everywhere.
 func zeros() []sample {
 	town, full := samples.Town(), samples.Full()
@@ -134,7 +125,7 @@ func single() []sample {
 
 // parallel: links between two vertices, side by side.
 func parallel() []sample {
-	up, down := sides(0, 1), sides(1, 0)
+	up, down := samples.Sides(0, 1), samples.Sides(1, 0)
 	few := samples.Graph(2, [3]int{0, 1, 5}, [3]int{0, 1, 4}, [3]int{1, 0, 3}, [3]int{0, 1, 0}, [3]int{0, 1, 2})
 	great := samples.Graph(2, [3]int{0, 1, most - 1}, [3]int{0, 1, 1})
 	alike := api.Graph{Verts: 2, Links: slices.Repeat([]api.Link{{From: 0, To: 1, Cap: most / api.MaxLinks}}, api.MaxLinks)}
@@ -247,27 +238,6 @@ func all() []sample {
 	return slices.Concat(zeros(), rounds(), single(), parallel(), parting(), leaving(), ends())
 }
 
-// byLinks puts paths in the row of their links, those over the same links as one.
-func byLinks(ps []api.Path) []api.Path {
-	var row []api.Path
-	for _, p := range ps {
-		at, there := slices.BinarySearchFunc(row, p, func(a api.Path, b api.Path) int { return slices.Compare(a.Links, b.Links) })
-		if there {
-			row[at].Rate += p.Rate
-		} else {
-			row = slices.Insert(row, at, p)
-		}
-	}
-	return row
-}
-
-// alike tells whether paths are those, one behind the other.
-func alike(a []api.Path, b []api.Path) bool {
-	return slices.EqualFunc(a, b, func(a api.Path, b api.Path) bool {
-		return a.Rate == b.Rate && slices.Equal(a.Links, b.Links)
-	})
-}
-
 // P15.1, by hand.
 
 func TestSamples(t *testing.T) {
@@ -289,7 +259,7 @@ func TestSamples(t *testing.T) {
 func TestSplit(t *testing.T) {
 	for _, x := range all() {
 		ps := check(t, x.g, x.f, x.src, x.dst)
-		due := x.ways == nil || slices.ContainsFunc(x.ways, func(way []api.Path) bool { return alike(byLinks(ps), byLinks(way)) })
+		due := x.ways == nil || slices.ContainsFunc(x.ways, func(way []api.Path) bool { return samples.Alike(samples.ByLinks(ps), samples.ByLinks(way)) })
 		if !due {
 			t.Errorf("%s: Split(%v, %v, %d, %d): %v, want one of %v", x.name, x.g, x.f, x.src, x.dst, ps, x.ways)
 		}
@@ -619,36 +589,16 @@ func TestWhatIsHandedInIsNotChanged(t *testing.T) {
 	}
 }
 
-// copied gives the paths in memory of their own.
-func copied(ps []api.Path) []api.Path {
-	var all []api.Path
-	for _, p := range ps {
-		all = append(all, over(p.Rate, slices.Clone(p.Links)...))
-	}
-	return all
-}
-
-// spoil writes over paths, their links, and the spare room of both.
-func spoil(ps []api.Path) {
-	for i, p := range ps {
-		samples.Spoil(p.Links)
-		ps[i].Rate = -5
-	}
-	for i := range ps[:cap(ps)] {
-		ps[:cap(ps)][i] = over(-5, -5)
-	}
-}
-
 func TestAnswersAreNewMemory(t *testing.T) {
 	for _, x := range all() {
 		links, f := slices.Clone(x.g.Links), slices.Clone(x.f)
 		g := api.Graph{Verts: x.g.Verts, Links: links}
 		one, _ := strand.Split(g, f, x.src, x.dst)
-		was := copied(one)
+		was := samples.Copied(one)
 		two, _ := strand.Split(g, f, x.src, x.dst)
-		spoil(one)
+		samples.SpoilPaths(one)
 		three, err := strand.Split(g, f, x.src, x.dst)
-		if !alike(two, was) || !alike(three, was) || err != api.OK {
+		if !samples.Alike(two, was) || !samples.Alike(three, was) || err != api.OK {
 			t.Errorf("%s: %v, then %v, %v, %d", x.name, was, two, three, err)
 		}
 		if !slices.Equal(links, x.g.Links) || !slices.Equal(f, x.f) {
@@ -660,17 +610,17 @@ func TestAnswersAreNewMemory(t *testing.T) {
 func TestPathsOfOneAnswerShareNoLinks(t *testing.T) {
 	for _, x := range all() {
 		ps, _ := strand.Split(x.g, x.f, x.src, x.dst)
-		was := copied(ps)
+		was := samples.Copied(ps)
 		for i := range ps {
 			samples.Spoil(ps[i].Links)
-			if !alike(ps[i+1:], was[i+1:]) {
+			if !samples.Alike(ps[i+1:], was[i+1:]) {
 				t.Errorf("%s: path %d shares links with one of %v", x.name, i, ps[i+1:])
 			}
 			ps[i].Links = slices.Clone(was[i].Links)
 		}
 		for i := len(ps) - 1; i >= 0; i-- {
 			samples.Spoil(ps[i].Links)
-			if !alike(ps[:i], was[:i]) {
+			if !samples.Alike(ps[:i], was[:i]) {
 				t.Errorf("%s: path %d shares links with one of %v", x.name, i, ps[:i])
 			}
 		}
@@ -682,12 +632,12 @@ func TestWhatIsHandedInIsNotKept(t *testing.T) {
 		g := api.Graph{Verts: x.g.Verts, Links: slices.Clone(x.g.Links)}
 		f := slices.Clone(x.f)
 		ps, _ := strand.Split(g, f, x.src, x.dst)
-		was := copied(ps)
+		was := samples.Copied(ps)
 		for i := range g.Links {
 			g.Links[i] = api.Link{From: 1, To: 0, Cap: 2}
 			f[i] = 1
 		}
-		if !alike(ps, was) {
+		if !samples.Alike(ps, was) {
 			t.Errorf("%s: the answer turned: %v", x.name, ps)
 		}
 		check(t, g, f, 1, 0)
@@ -706,7 +656,7 @@ func TestFromSeveralGoroutines(t *testing.T) {
 			for range 200 {
 				ps, err := strand.Split(g, f, 0, 3)
 				none, err2 := strand.Split(g, f, 3, 0)
-				if !alike(ps, want) || err != api.OK || len(none) != 0 || err2 != api.ErrStrandForm {
+				if !samples.Alike(ps, want) || err != api.OK || len(none) != 0 || err2 != api.ErrStrandForm {
 					t.Errorf("%v, %d; %v, %d", ps, err, none, err2)
 				}
 			}
